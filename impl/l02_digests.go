@@ -51,9 +51,7 @@ func padding(long int) string {
 func schedule(block string) [64]uint32 {
 	var words [64]uint32
 	for i := range 16 {
-		for j := range 4 {
-			words[i] = words[i]<<8 | uint32(block[4*i+j])
-		}
+		words[i] = wordAt(block, i)
 	}
 	for i := 16; i < len(words); i++ {
 		x, y := words[i-15], words[i-2]
@@ -62,6 +60,14 @@ func schedule(block string) [64]uint32 {
 		words[i] = words[i-16] + s0 + words[i-7] + s1
 	}
 	return words
+}
+
+func wordAt(s string, place int) uint32 {
+	word := uint32(0)
+	for i := range 4 {
+		word = word<<8 | uint32(s[4*place+i])
+	}
+	return word
 }
 
 func digestBlock(state [8]uint32, words [64]uint32) [8]uint32 {
