@@ -35,9 +35,13 @@ func rightMembersByRule(list []impl.Member) bool {
 	return len(list) <= 60 && size <= 4000
 }
 
-// summed is a text with its sum behind it, so that no sum hides what else is wrong.
-func summed(body string) string {
-	return string(binary.BigEndian.AppendUint32([]byte(body), crc32.ChecksumIEEE([]byte(body))))
+// summed is a text with the sum of the Data behind it, so that no sum hides what else is wrong.
+func summed(body string, data string) string {
+	return body + sumOf(data)
+}
+
+func sumOf(data string) string {
+	return string(binary.BigEndian.AppendUint32(nil, crc32.ChecksumIEEE([]byte(data))))
 }
 
 func allData(list []impl.Member) string {
@@ -64,7 +68,7 @@ func lengthy(s string) string {
 
 // saidBlock is the block of these members, whether they are right or not.
 func saidBlock(list ...impl.Member) string {
-	return summed(blockAhead(list) + lengthy(packByRule(allData(list))))
+	return summed(blockAhead(list)+lengthy(packByRule(allData(list))), allData(list))
 }
 
 // shownMembers tells the first few only, for lists, Names and Data may be long.
@@ -201,6 +205,38 @@ func checkOnlyBlocks(t *testing.T, what string, s string) {
 	}
 }
 
+// renamed tells what the members are named when the byte at a place of their block is another one; false where no Name has that place. Counts and sizes of Names are one byte here, for right ones are below 128.
+func renamed(list []impl.Member, at int, b byte) ([]impl.Member, bool) {
+	place := 1
+	for i, m := range list {
+		place++
+		if at >= place && at < place+len(m.Name) {
+			name := []byte(m.Name)
+			name[at-place] = b
+			other := slices.Clone(list)
+			other[i].Name = string(name)
+			return other, true
+		}
+		place += len(m.Name) + len(binary.AppendUvarint(nil, uint64(len(m.Data))))
+	}
+	return nil, false
+}
+
+// checkChangedByte: a sum of the Data doesn't hold a Name, so there another byte makes another block, and anywhere else none.
+func checkChangedByte(t *testing.T, list []impl.Member, s string, at int, b byte) {
+	t.Helper()
+	changed := s[:at] + string([]byte{b}) + s[at+1:]
+	other, named := renamed(list, at, b)
+	if changed == s {
+		return
+	}
+	if named && rightMembersByRule(other) {
+		checkBlockRead(t, changed, other)
+	} else {
+		checkNoBlock(t, "a byte that is changed", changed)
+	}
+}
+
 // eachOrder goes through the list in all its orders.
 func eachOrder(list []impl.Member, yield func([]impl.Member)) {
 	var place func(done int)
@@ -326,10 +362,11 @@ func TestPromise11BlocksOfFewMembers(t *testing.T) {
 		{members(member("z", "ab"), member("y", "cd"), member("x", "")), "\x03\x01z\x02\x01y\x02\x01x\x00" + lengthy(packByRule("abcd"))},
 		{members(member("z", strings.Repeat("ab", 100))), "\x01\x01z\xc8\x01" + lengthy(packByRule(strings.Repeat("ab", 100)))},
 	} {
-		if s, ok := impl.SolidOf(c.list); !ok || s != summed(c.body) {
-			t.Errorf("SolidOf %s: %q, %v, not %q", shownMembers(c.list), s, ok, summed(c.body))
+		want := summed(c.body, allData(c.list))
+		if s, ok := impl.SolidOf(c.list); !ok || s != want {
+			t.Errorf("SolidOf %s: %q, %v, not %q", shownMembers(c.list), s, ok, want)
 		}
-		checkBlockRead(t, summed(c.body), c.list)
+		checkBlockRead(t, want, c.list)
 	}
 }
 
@@ -363,65 +400,115 @@ func TestPromise11WrongMembersAreNotRead(t *testing.T) {
 	}
 }
 
+func TestPromise11TheSumIsThatOfAllData(t *testing.T) {
+	for _, c := range []struct {
+		list []impl.Member
+		sum  string
+	}{
+		{nil, "\x00\x00\x00\x00"},
+		{members(member("a", "")), "\x00\x00\x00\x00"},
+		{members(member("a", "b")), "\x71\xbe\xef\xf9"},
+		{members(member("another name", "b")), "\x71\xbe\xef\xf9"},
+		{members(member("a", ""), member("c", "b"), member("d", "")), "\x71\xbe\xef\xf9"},
+		{members(member("a", "123456789")), "\xcb\xf4\x39\x26"},
+		{members(member("b", "1234"), member("a", "56789")), "\xcb\xf4\x39\x26"},
+		{members(member("a", "12"), member("?", ""), member("A", "345678"), member("b.c", "9")), "\xcb\xf4\x39\x26"},
+		{manyMembers(60), sumOf(strings.Repeat("d", 120))},
+		{members(member("a", strings.Repeat("x", 4000))), sumOf(strings.Repeat("x", 4000))},
+	} {
+		s, ok := impl.SolidOf(c.list)
+		if !ok || len(s) < 4 || s[len(s)-4:] != c.sum {
+			t.Errorf("SolidOf %s: %.60q, %v, whose sum is not %q", shownMembers(c.list), s, ok, c.sum)
+		}
+		checkBlockRead(t, blockAhead(c.list)+lengthy(packByRule(allData(c.list)))+c.sum, c.list)
+	}
+}
+
+func fewMembers() [][]impl.Member {
+	return [][]impl.Member{nil, members(member("a", "")), members(member("a", "hello hello hello"), member("b.c", "hello"), member("?", ""))}
+}
+
 func TestPromise11BytesOfBlocksThatAreChanged(t *testing.T) {
-	for _, list := range [][]impl.Member{nil, members(member("a", "")), members(member("a", "hello hello hello"), member("b.c", "hello"), member("?", ""))} {
+	for _, list := range fewMembers() {
 		s := saidBlock(list...)
 		for at := range s {
 			checkNoBlock(t, "a byte that is left out", s[:at]+s[at+1:])
 			for b := range 256 {
-				if changed := s[:at] + string([]byte{byte(b)}) + s[at+1:]; changed != s {
-					checkNoBlock(t, "a byte that is changed", changed)
-				}
+				checkChangedByte(t, list, s, at, byte(b))
 			}
 		}
 		for cut := range len(s) {
 			checkNoBlock(t, "cut short", s[:cut])
-			checkNoBlock(t, "cut at its beginning", s[cut+1:])
+			// What is left of a block without Data may be that of no members.
+			checkOnlyBlocks(t, "cut at its beginning", s[cut+1:])
 		}
 		for _, more := range []string{"\x00", "x", "\xff", "\x00\x00\x00\x00", s} {
 			checkNoBlock(t, "bytes behind the end", s+more)
 			checkNoBlock(t, "bytes ahead", more+s)
 		}
 	}
-	turnings(saidBlock(manyMembers(60)...), func(other string) { checkNoBlock(t, "one bit turned over", other) })
+	list := manyMembers(60)
+	s := saidBlock(list...)
+	for at := range s {
+		for bit := range 8 {
+			checkChangedByte(t, list, s, at, s[at]^1<<bit)
+		}
+	}
 }
 
 func TestPromise11BlocksWhoseSumFitsAreReadWhole(t *testing.T) {
-	for _, list := range [][]impl.Member{nil, members(member("a", "")), members(member("a", "hello hello hello"), member("b.c", "hello"), member("?", ""))} {
-		s := saidBlock(list...)
-		body := s[:len(s)-4]
-		checkBlockRead(t, summed(body), list)
+	for _, list := range fewMembers() {
+		data := allData(list)
+		body := blockAhead(list) + lengthy(packByRule(data))
+		checkBlockRead(t, summed(body, data), list)
 		for cut := range len(body) {
-			checkNoBlock(t, "bytes that are not there", summed(body[:cut]))
-			checkOnlyBlocks(t, "a byte that is left out", summed(body[:cut]+body[cut+1:]))
-			for b := range 256 {
-				checkOnlyBlocks(t, "a byte that is changed", summed(body[:cut]+string([]byte{byte(b)})+body[cut+1:]))
-			}
+			checkNoBlock(t, "bytes that are not there", summed(body[:cut], data))
 		}
-		for _, more := range []string{"\x00", "x", "\xff", "\x00\x00\x00\x00\x00\x00", body, s} {
-			checkNoBlock(t, "bytes behind the pack", summed(body+more))
+		for _, more := range []string{"\x00", "x", "\xff", "\x00\x00\x00\x00\x00\x00", sumOf(data), body} {
+			checkNoBlock(t, "bytes behind the pack", summed(body+more, data))
 		}
 	}
-	checkOnlyBlocks(t, "another name", summed("\x01\x01b\x00\x06\x00\x00\x00\x00\x00\x00"))
-	checkBlockRead(t, summed("\x01\x01b\x00\x06\x00\x00\x00\x00\x00\x00"), members(member("b", "")))
+}
+
+func TestPromise11BlocksOfOtherPacksWhoseSumFits(t *testing.T) {
+	for _, list := range fewMembers() {
+		want := allData(list)
+		ahead, pack := blockAhead(list), packByRule(want)
+		for at := range pack {
+			for b := range 256 {
+				other := pack[:at] + string([]byte{byte(b)}) + pack[at+1:]
+				data, packed := impl.Unpack(other)
+				s := summed(ahead+lengthy(other), data)
+				checkOnlyBlocks(t, "a byte of the pack that is changed", s)
+				if !packed || len(data) != len(want) {
+					checkNoBlock(t, "a pack of no such Data", s)
+				}
+			}
+		}
+	}
+	// Data of the same size, under the same Names.
+	for _, data := range []string{"aaaa", "aaab", "\x00\x00\x00\x00", "\xff\xfe\xfd\xfc"} {
+		checkBlockRead(t, summed("\x02\x01x\x03\x01y\x01"+lengthy(packByRule(data)), data), members(member("x", data[:3]), member("y", data[3:])))
+	}
 }
 
 func TestPromise11SumsThatDoNotFit(t *testing.T) {
 	checkNoBlock(t, "no bytes", "")
 	checkNoBlock(t, "four bytes", "\x00\x00\x00\x00")
-	checkNoBlock(t, "the sum of nothing", summed(""))
-	list := members(member("a", "hello"), member("b", "hello"))
-	s := saidBlock(list...)
-	body := s[:len(s)-4]
-	sum := crc32.ChecksumIEEE([]byte(body))
+	checkNoBlock(t, "no members and no pack", "\x00\x00\x00\x00\x00")
+	list := members(member("a", "hello"), member("b", "HELLO"))
+	pack := lengthy(packByRule("helloHELLO"))
+	body := blockAhead(list) + pack
+	sum := crc32.ChecksumIEEE([]byte("helloHELLO"))
 	for _, other := range []string{
 		string(binary.LittleEndian.AppendUint32(nil, sum)), string(binary.BigEndian.AppendUint32(nil, ^sum)), string(binary.BigEndian.AppendUint32(nil, sum+1)), "\x00\x00\x00\x00", "\xff\xff\xff\xff",
-		string(binary.BigEndian.AppendUint32(nil, crc32.ChecksumIEEE([]byte("hellohello")))), string(binary.BigEndian.AppendUint32(nil, crc32.ChecksumIEEE([]byte(packByRule("hellohello"))))),
-		string(binary.BigEndian.AppendUint64(nil, uint64(sum))), "", string(binary.BigEndian.AppendUint32(nil, sum))[:3],
+		sumOf(body), sumOf(blockAhead(list)), sumOf(pack), sumOf(pack[1:]), sumOf("ab"), sumOf("ahellobHELLO"), sumOf("hello"), sumOf("HELLO"), sumOf("HELLOhello"), sumOf(lengthy("helloHELLO")), sumOf(lengthy("hello") + lengthy("HELLO")),
+		string(binary.BigEndian.AppendUint64(nil, uint64(sum))), "", sumOf("helloHELLO")[:3], sumOf("helloHELLO")[1:], sumOf("helloHELLO") + "\x00", "\x00" + sumOf("helloHELLO"), sumOf("helloHELLO") + sumOf("helloHELLO"),
 	} {
 		checkNoBlock(t, "another sum", body+other)
 	}
-	checkBlockRead(t, body+string(binary.BigEndian.AppendUint32(nil, sum)), list)
+	checkBlockRead(t, body+sumOf("helloHELLO"), list)
+	turnings(sumOf("helloHELLO"), func(other string) { checkNoBlock(t, "a sum with one bit turned over", body+other) })
 }
 
 func TestPromise11SizesThatTheDataDoNotHave(t *testing.T) {
@@ -431,7 +518,7 @@ func TestPromise11SizesThatTheDataDoNotHave(t *testing.T) {
 			b = append(b, 1, 'a'+byte(i))
 			b = binary.AppendUvarint(b, size)
 		}
-		return summed(string(b) + lengthy(packByRule(data)))
+		return summed(string(b)+lengthy(packByRule(data)), data)
 	}
 	checkBlockRead(t, block([]uint64{2, 0, 3}, "hello"), members(member("a", "he"), member("b", ""), member("c", "llo")))
 	for _, sizes := range [][]uint64{
@@ -445,37 +532,37 @@ func TestPromise11SizesThatTheDataDoNotHave(t *testing.T) {
 }
 
 func TestPromise11PacksThatAreNone(t *testing.T) {
-	block := func(size uint64, pack string) string {
-		return summed("\x01\x01a" + string(binary.AppendUvarint(nil, size)) + pack)
+	block := func(size uint64, pack string, data string) string {
+		return summed("\x01\x01a"+string(binary.AppendUvarint(nil, size))+pack, data)
 	}
 	pack := packByRule("aaaa")
-	checkBlockRead(t, block(4, lengthy(pack)), members(member("a", "aaaa")))
-	checkNoBlock(t, "a byte behind the pack's end", block(4, lengthy(pack+"\x00")))
-	checkNoBlock(t, "a pack cut short", block(4, lengthy(pack[:len(pack)-1])))
-	checkNoBlock(t, "no pack", block(4, lengthy("")))
-	checkNoBlock(t, "no pack of no Data", block(0, lengthy("")))
-	checkNoBlock(t, "Data that are not packed", block(4, lengthy("aaaa")))
-	checkNoBlock(t, "other tokens of the same Data", block(4, lengthy(saidWith(4, byteToken('a'), byteToken('a'), byteToken('a'), byteToken('a')))))
-	checkNoBlock(t, "a pack without its size", block(4, pack))
-	checkNoBlock(t, "a size of the pack that is one more", block(4, string([]byte{byte(len(pack) + 1)})+pack))
-	checkNoBlock(t, "a size of the pack that is one less", block(4, string([]byte{byte(len(pack) - 1)})+pack))
-	checkNoBlock(t, "a size of the pack in another form", block(4, string([]byte{byte(len(pack)) | 0x80, 0})+pack))
-	checkNoBlock(t, "a pack of more than MaxText bytes", block(4, lengthy(strings.Repeat("\x00", 100001))))
-	checkNoBlock(t, "more Data than may be", block(4001, lengthy(packByRule(strings.Repeat("x", 4001)))))
+	checkBlockRead(t, block(4, lengthy(pack), "aaaa"), members(member("a", "aaaa")))
+	checkNoBlock(t, "a byte behind the pack's end", block(4, lengthy(pack+"\x00"), "aaaa"))
+	checkNoBlock(t, "a pack cut short", block(4, lengthy(pack[:len(pack)-1]), "aaaa"))
+	checkNoBlock(t, "no pack", block(4, lengthy(""), "aaaa"))
+	checkNoBlock(t, "no pack of no Data", block(0, lengthy(""), ""))
+	checkNoBlock(t, "Data that are not packed", block(4, lengthy("aaaa"), "aaaa"))
+	checkNoBlock(t, "other tokens of the same Data", block(4, lengthy(saidWith(4, byteToken('a'), byteToken('a'), byteToken('a'), byteToken('a'))), "aaaa"))
+	checkNoBlock(t, "a pack without its size", block(4, pack, "aaaa"))
+	checkNoBlock(t, "a size of the pack that is one more", block(4, string([]byte{byte(len(pack) + 1)})+pack, "aaaa"))
+	checkNoBlock(t, "a size of the pack that is one less", block(4, string([]byte{byte(len(pack) - 1)})+pack, "aaaa"))
+	checkNoBlock(t, "a size of the pack in another form", block(4, string([]byte{byte(len(pack)) | 0x80, 0})+pack, "aaaa"))
+	checkNoBlock(t, "a pack of more than MaxText bytes", block(4, lengthy(strings.Repeat("\x00", 100001)), "aaaa"))
+	checkNoBlock(t, "more Data than may be", block(4001, lengthy(packByRule(strings.Repeat("x", 4001))), strings.Repeat("x", 4001)))
 }
 
 func TestPromise11NumbersOfBlocksInAnotherForm(t *testing.T) {
 	pack := lengthy(packByRule("x"))
 	none := lengthy(packByRule(""))
-	checkBlockRead(t, summed("\x01\x01a\x01"+pack), members(member("a", "x")))
+	checkBlockRead(t, summed("\x01\x01a\x01"+pack, "x"), members(member("a", "x")))
 	for _, one := range []string{"\x81", "\x81\x00", "\x81\x80\x00", "\x81\x80\x80\x80\x80\x80\x80\x80\x80\x00", "\x81\x80\x80\x80\x80\x80\x80\x80\x80\x02", strings.Repeat("\x81", 10) + "\x01"} {
-		checkNoBlock(t, "a count", summed(one+"\x01a\x01"+pack))
-		checkNoBlock(t, "a size of a Name", summed("\x01"+one+"a\x01"+pack))
-		checkNoBlock(t, "a size of Data", summed("\x01\x01a"+one+pack))
+		checkNoBlock(t, "a count", summed(one+"\x01a\x01"+pack, "x"))
+		checkNoBlock(t, "a size of a Name", summed("\x01"+one+"a\x01"+pack, "x"))
+		checkNoBlock(t, "a size of Data", summed("\x01\x01a"+one+pack, "x"))
 	}
 	for _, nought := range []string{"\x80", "\x80\x00", "\x80\x80\x00", "\x80\x80\x80\x80\x80\x80\x80\x80\x80\x00", "\x80\x80\x80\x80\x80\x80\x80\x80\x80\x02"} {
-		checkNoBlock(t, "a count of no members", summed(nought+none))
-		checkNoBlock(t, "a size of no Data", summed("\x01\x01a"+nought+none))
+		checkNoBlock(t, "a count of no members", summed(nought+none, ""))
+		checkNoBlock(t, "a size of no Data", summed("\x01\x01a"+nought+none, ""))
 	}
 }
 
@@ -486,15 +573,15 @@ func TestPromise11NumbersOfBlocksThatAreTooGreat(t *testing.T) {
 			continue
 		}
 		number := impl.PutNum(n)
-		checkNoBlock(t, "a count", summed(number))
-		checkNoBlock(t, "a count", summed(number+"\x01a\x01"+pack))
-		checkNoBlock(t, "a size of a Name", summed("\x01"+number+"a\x01"+pack))
-		checkNoBlock(t, "a size of a Name", summed("\x01"+number+strings.Repeat("a", 5000)))
-		checkNoBlock(t, "a size of Data", summed("\x01\x01a"+number+pack))
-		checkNoBlock(t, "a size of the pack", summed("\x01\x01a\x01"+number+pack[1:]))
+		checkNoBlock(t, "a count", summed(number, ""))
+		checkNoBlock(t, "a count", summed(number+"\x01a\x01"+pack, "x"))
+		checkNoBlock(t, "a size of a Name", summed("\x01"+number+"a\x01"+pack, "x"))
+		checkNoBlock(t, "a size of a Name", summed("\x01"+number+strings.Repeat("a", 5000), "x"))
+		checkNoBlock(t, "a size of Data", summed("\x01\x01a"+number+pack, "x"))
+		checkNoBlock(t, "a size of the pack", summed("\x01\x01a\x01"+number+pack[1:], "x"))
 	}
-	checkNoBlock(t, "a count above the members", summed("\x02\x01a\x01"+pack))
-	checkNoBlock(t, "a count below the members", summed("\x01\x01a\x01\x01b\x00"+pack))
+	checkNoBlock(t, "a count above the members", summed("\x02\x01a\x01"+pack, "x"))
+	checkNoBlock(t, "a count below the members", summed("\x01\x01a\x01\x01b\x00"+pack, "x"))
 	checkNoBlock(t, "61 members", saidBlock(manyMembers(61)...))
 }
 
