@@ -47,7 +47,7 @@ func deltaByRule(old string, text string) []impl.Piece {
 	var list []impl.Piece
 	for at := 0; at < len(text); {
 		place, long := 0, 0
-		for k := range old {
+		for k := range len(old) {
 			same := 0
 			for k+same < len(old) && at+same < len(text) && old[k+same] == text[at+same] {
 				same++
@@ -395,6 +395,8 @@ func TestPromise9TheLongestAndOfTheseTheFirst(t *testing.T) {
 		{"abababab", "babababa", pieces(from(1, 7), data("a"))},
 		{"abababababab", "bababa", pieces(from(1, 6))},
 		{"xyzabcdef", "abcdef", pieces(from(3, 6))},
+		// Any byte may be the first one, within a letter of two bytes, too.
+		{"\xc3\xa9abcde", "\xa9abcde", pieces(from(1, 6))},
 		{"aaaaaabaaaaaaa", "aaaaaaa", pieces(from(7, 7))},
 		{"aaaaaabaaaaaaa", "aaaaaaaaaaaaab", pieces(from(7, 7), from(0, 7))},
 		// A later start would have taken more, but what begins first is taken first.
